@@ -680,12 +680,11 @@ func checkCode(t *testing.T, l []impl.Step) bool {
 	return true
 }
 
-// Promise 3: all short code out of the steps that make its shape.
-func TestCodeAllShort(t *testing.T) {
-	some := joined(ops(impl.WBlock, impl.WLoop, impl.WIf, impl.WElse, impl.WEnd, impl.WTrap), []impl.Step{step(impl.WBr, 0), step(impl.WBr, 1), step(impl.WTable, 0, 1)})
-	var lists [][]impl.Step
-	from := [][]impl.Step{nil}
-	for range 5 {
+// allOf tells all lists of so many of these steps at most.
+func allOf(some []impl.Step, most int) [][]impl.Step {
+	lists := [][]impl.Step{nil}
+	from := lists
+	for range most {
 		var next [][]impl.Step
 		for _, l := range from {
 			for _, x := range some {
@@ -695,8 +694,14 @@ func TestCodeAllShort(t *testing.T) {
 		lists = append(lists, next...)
 		from = next
 	}
+	return lists
+}
+
+// Promise 3: all short code out of the steps that make its shape.
+func TestCodeAllShort(t *testing.T) {
+	some := joined(ops(impl.WBlock, impl.WLoop, impl.WIf, impl.WElse, impl.WEnd, impl.WTrap), []impl.Step{step(impl.WBr, 0), step(impl.WBr, 1), step(impl.WTable, 0, 1)})
 	good := 0
-	for _, l := range lists {
+	for _, l := range allOf(some, 5) {
 		if checkCode(t, l) {
 			good++
 		}
