@@ -723,11 +723,19 @@ func TestValidAllShort(t *testing.T) {
 
 // grower makes valid code of all steps, part by part.
 type grower struct {
-	pick func(int) int
-	l    []impl.Step
+	pick  func(int) int
+	often []int // the Ops to take from; each as often as it stands here; nil: all alike
+	l     []impl.Step
 }
 
 const fullGrown = 36
+
+func (g *grower) op() int {
+	if g.often == nil {
+		return 1 + g.pick(22)
+	}
+	return g.often[g.pick(len(g.often))]
+}
 
 func (g *grower) add(x impl.Step) { g.l = append(g.l, x) }
 
@@ -749,7 +757,7 @@ func (g *grower) fill(x impl.Step, depth int) impl.Step {
 func (g *grower) part(base int, depth int, dead bool) {
 	own := 0
 	for range 3 + g.pick(12) {
-		x := g.fill(impl.Step{Op: 1 + g.pick(22)}, depth)
+		x := g.fill(impl.Step{Op: g.op()}, depth)
 		off, on := needsByHand(x.Op)
 		after := max(own, off) - off + on
 		if len(g.l) > fullGrown || x.Op == 18 || x.Op == 19 || own < off && !dead || base+after > 4 || opensByHand(x) && depth == 8 {
