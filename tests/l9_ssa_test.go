@@ -1119,7 +1119,7 @@ func TestSsaGoodNumbers(t *testing.T) {
 		ssa(14, "copy 12 3, if 12 1(12) 1(4); with 13, store 13 12, out 13, end 13 12 0"),
 		ssa(16, "to 1(1 2); with 12 13, sub 14 12 13, load 15 14, table 15 1(13 12) 2 1(12 15); end 12 13 15"),
 	} {
-		some := append(places(16), math.MinInt, -1, 18, 22, 28, 29, 30, 31, 249, 250, 251, 65535, 65536, 65536+1, 1<<32, math.MaxInt)
+		some := append(places(16), s.Values-1, s.Values, math.MinInt, -1, 18, 22, 28, 29, 30, 31, 249, 250, 251, 65535, 65536, 65536+1, 1<<32, math.MaxInt)
 		for i := range numbersIn(&s) {
 			for _, n := range some {
 				spoilt := copySsa(s)
