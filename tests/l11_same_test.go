@@ -1483,9 +1483,9 @@ func TestSameEachTime(t *testing.T) {
 	}
 }
 
-// Promise 19: ssas that are not good.
-func TestSameNotGood(t *testing.T) {
-	for _, s := range []impl.Ssa{
+// wrongSsas are ssas that are not good.
+func wrongSsas() []impl.Ssa {
+	return []impl.Ssa{
 		{}, {Values: 12}, {Values: 12, Parts: []impl.Part{}}, {Values: 12, Parts: []impl.Part{{}}}, rowOfParts(12), rowOfParts(1000),
 		ssa(11, "trap"), ssa(251, "trap"), ssa(0, "end 0 1 2"), ssa(-1, "trap"), ssa(math.MinInt, "trap"), ssa(math.MaxInt, "trap"), ssa(1<<40, "end 0 1 2"),
 		ssa(12, "const 12 0, trap"), ssa(13, "out 12, trap"), ssa(13, "copy 12 12, trap"), ssa(14, "copy 12 13, copy 13 12, trap"), ssa(13, "const 12 1, const 12 2, trap"), ssa(13, "const 11 1, trap"),
@@ -1497,7 +1497,12 @@ func TestSameNotGood(t *testing.T) {
 		{Values: 12, Parts: []impl.Part{{Go: 4, Test: 1}}}, {Values: 12, Parts: []impl.Part{{Go: 6}}}, {Values: 12, Parts: []impl.Part{{Go: 4, Args: [][]int{nil}}}},
 		{Values: 12, Parts: []impl.Part{{Go: 4, Code: make([]impl.Flat, 61)}}}, {Values: 12, Parts: []impl.Part{{Go: 4, Code: []impl.Flat{{Op: 1, Dst: 3}}}}},
 		{Values: 13, Parts: []impl.Part{{Go: 4, Code: []impl.Flat{{Op: 3, Do: 3, Dst: 12}}}}}, {Values: 13, Parts: []impl.Part{{Go: 4, Code: []impl.Flat{{Op: 7, Dst: 12}}}}}, {Values: 13, Parts: []impl.Part{{Go: 4, Code: []impl.Flat{{Op: 2, Dst: 12, N: 1}}}}},
-	} {
+	}
+}
+
+// Promise 19: ssas that are not good.
+func TestSameNotGood(t *testing.T) {
+	for _, s := range wrongSsas() {
 		if impl.GoodSsa(s) {
 			t.Errorf("GoodSsa(%v)", s)
 		}

@@ -1905,8 +1905,10 @@ func (g *ssaGrower) fill(at int) {
 	}
 }
 
-func grownSsa(pick func(int) int) impl.Ssa {
-	f := grownWays(pick)
+func grownSsa(pick func(int) int) impl.Ssa { return grownOn(grownWays(pick), pick) }
+
+// grownOn gives blocks without Code, all come to, Params, steps and Args.
+func grownOn(f []impl.Block, pick func(int) int) impl.Ssa {
 	g := ssaGrower{pick: pick, dominators: dominatorsByHand(graphByHand(f)), s: impl.Ssa{Values: 12 + pick(80)}}
 	if pick(5) == 0 {
 		g.s.Values = 250 - pick(100)
